@@ -95,19 +95,23 @@ func readNode(s string) (api.Node, bool) {
 }
 
 func readEdge(s string) (api.Edge, bool) {
-	from, s, _ := strings.Cut(s, " ")
-	to, s, _ := strings.Cut(s, " ")
-	label, weight, ok := strings.Cut(s, " ")
-	e := api.Edge{Label: label}
-	for _, part := range []struct {
-		text string
-		to   *int
-	}{{from, &e.From}, {to, &e.To}, {weight, &e.Weight}} {
-		n, err := strconv.Atoi(part.text)
-		if err != nil || strconv.Itoa(n) != part.text {
-			return api.Edge{}, false
-		}
-		*part.to = n
+	first, s, _ := strings.Cut(s, " ")
+	second, s, _ := strings.Cut(s, " ")
+	label, third, _ := strings.Cut(s, " ")
+	from, ok1 := readNumber(first)
+	to, ok2 := readNumber(second)
+	weight, ok3 := readNumber(third)
+	if !ok1 || !ok2 || !ok3 {
+		return api.Edge{}, false
 	}
-	return e, ok
+	return api.Edge{From: from, To: to, Label: label, Weight: weight}, true
+}
+
+// readNumber reads a number just as Print writes it: no noughts ahead.
+func readNumber(s string) (int, bool) {
+	n, err := strconv.Atoi(s)
+	if err != nil || strconv.Itoa(n) != s {
+		return 0, false
+	}
+	return n, true
 }
