@@ -1,4 +1,4 @@
-package access
+package access_test
 
 import (
 	"math"
@@ -6,6 +6,7 @@ import (
 	"slices"
 	"testing"
 
+	. "bridleway/access"
 	"bridleway/api"
 	"bridleway/counts"
 	"bridleway/each"

@@ -1,4 +1,4 @@
-package anyk
+package anyk_test
 
 import (
 	"cmp"
@@ -7,6 +7,7 @@ import (
 	"slices"
 	"testing"
 
+	. "bridleway/anyk"
 	"bridleway/api"
 	"bridleway/costs"
 	"bridleway/each"

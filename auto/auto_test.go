@@ -1,4 +1,4 @@
-package auto
+package auto_test
 
 import (
 	"math"
@@ -8,6 +8,7 @@ import (
 	"testing"
 
 	"bridleway/api"
+	. "bridleway/auto"
 	"bridleway/dfa"
 	"bridleway/mini"
 	"bridleway/regex"

@@ -1,4 +1,4 @@
-package bits
+package bits_test
 
 import (
 	"math"
@@ -6,6 +6,7 @@ import (
 	"testing"
 
 	"bridleway/api"
+	. "bridleway/bits"
 )
 
 var some = []uint64{0, 1, 2, 3, 5, 255, 1 << 31, 1<<32 - 1, 1 << 32, 1<<61 - 1, 1 << 61, 1<<62 - 1, 1 << 62, 1<<62 + 1, 1 << 63, math.MaxUint64}

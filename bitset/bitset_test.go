@@ -1,10 +1,12 @@
-package bitset
+package bitset_test
 
 import (
 	"math"
 	"math/rand"
 	"slices"
 	"testing"
+
+	. "bridleway/bitset"
 )
 
 func TestOnlySmallNumbers(t *testing.T) {

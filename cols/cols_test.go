@@ -1,4 +1,4 @@
-package cols
+package cols_test
 
 import (
 	"math"
@@ -7,6 +7,7 @@ import (
 	"testing"
 
 	"bridleway/api"
+	. "bridleway/cols"
 	"bridleway/graph"
 	"bridleway/value"
 )

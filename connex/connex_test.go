@@ -1,4 +1,4 @@
-package connex
+package connex_test
 
 import (
 	"math/rand"
@@ -8,6 +8,7 @@ import (
 	"testing"
 
 	"bridleway/api"
+	. "bridleway/connex"
 	"bridleway/forest"
 	"bridleway/parse"
 )

@@ -1,4 +1,4 @@
-package costs
+package costs_test
 
 import (
 	"cmp"
@@ -8,6 +8,7 @@ import (
 	"testing"
 
 	"bridleway/api"
+	. "bridleway/costs"
 	"bridleway/each"
 	"bridleway/tree"
 )

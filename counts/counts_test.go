@@ -1,4 +1,4 @@
-package counts
+package counts_test
 
 import (
 	"math"
@@ -7,6 +7,7 @@ import (
 	"testing"
 
 	"bridleway/api"
+	. "bridleway/counts"
 	"bridleway/tree"
 )
 

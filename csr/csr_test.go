@@ -1,4 +1,4 @@
-package csr
+package csr_test
 
 import (
 	"cmp"
@@ -8,6 +8,7 @@ import (
 	"testing"
 
 	"bridleway/api"
+	. "bridleway/csr"
 )
 
 func random(r *rand.Rand, nodes, edges int) api.Graph {

@@ -1,4 +1,4 @@
-package cursor
+package cursor_test
 
 import (
 	"math"
@@ -8,6 +8,7 @@ import (
 	"testing"
 
 	"bridleway/api"
+	. "bridleway/cursor"
 	"bridleway/each"
 	"bridleway/tree"
 	"bridleway/varint"

@@ -1,4 +1,4 @@
-package dag
+package dag_test
 
 import (
 	"math"
@@ -8,6 +8,7 @@ import (
 
 	"bridleway/api"
 	"bridleway/csr"
+	. "bridleway/dag"
 	"bridleway/dfa"
 	"bridleway/pairs"
 	"bridleway/product"

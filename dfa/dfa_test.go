@@ -1,4 +1,4 @@
-package dfa
+package dfa_test
 
 import (
 	"math"
@@ -8,6 +8,7 @@ import (
 	"testing"
 
 	"bridleway/api"
+	. "bridleway/dfa"
 	"bridleway/nfa"
 	"bridleway/regex"
 )

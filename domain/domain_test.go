@@ -1,4 +1,4 @@
-package domain
+package domain_test
 
 import (
 	"math/rand"
@@ -9,6 +9,7 @@ import (
 	"bridleway/api"
 	"bridleway/auto"
 	"bridleway/csr"
+	. "bridleway/domain"
 	"bridleway/forest"
 	"bridleway/pairs"
 	"bridleway/parse"

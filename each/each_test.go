@@ -1,4 +1,4 @@
-package each
+package each_test
 
 import (
 	"math"
@@ -7,6 +7,7 @@ import (
 	"testing"
 
 	"bridleway/api"
+	. "bridleway/each"
 	"bridleway/tree"
 )
 

@@ -1,4 +1,4 @@
-package engine
+package engine_test
 
 import (
 	"cmp"
@@ -10,8 +10,10 @@ import (
 
 	"bridleway/api"
 	"bridleway/costs"
+	"bridleway/csr"
 	"bridleway/cursor"
 	"bridleway/each"
+	. "bridleway/engine"
 	"bridleway/mark"
 	"bridleway/parse"
 	"bridleway/paths"
@@ -63,7 +65,7 @@ func answers(t *testing.T, g api.Graph, text string) []api.Answer {
 	if code != api.OK {
 		t.Fatal(text, code)
 	}
-	e := open(t, g, text)
+	c, _ := csr.New(g)
 	q := p.Query()
 	columns := p.Columns()
 	var all []api.Answer
@@ -72,7 +74,7 @@ func answers(t *testing.T, g api.Graph, text string) []api.Answer {
 		some := []api.Answer{{Nodes: nodes, Cost: row.Cost + p.Base()}}
 		for _, i := range scope.Rows(q) {
 			from := nodes[slices.Index(columns, q.Paths[i].From)]
-			rows, _ := paths.New(e.c, q.Paths[i], nodes[slices.Index(columns, q.Paths[i].To)], 100)
+			rows, _ := paths.New(c, q.Paths[i], nodes[slices.Index(columns, q.Paths[i].To)], 100)
 			var more []api.Answer
 			for _, a := range some {
 				for k := range rows.Count(from) {
@@ -459,6 +461,7 @@ func TestAnyToken(t *testing.T) {
 	for _, text := range texts[:8] {
 		all := answers(t, g, text)
 		e := open(t, g, text)
+		cost := read(t, text).Cost
 		_, token, _ := e.Page("", 2)
 		for range 2000 {
 			forged := []byte(token)
@@ -478,7 +481,7 @@ func TestAnyToken(t *testing.T) {
 			last := -1
 			for _, a := range l {
 				i := slices.IndexFunc(all, func(b api.Answer) bool { return Same(a, b) })
-				if i < 0 || !e.q.Cost && i <= last || e.q.Cost && last >= 0 && a.Cost < all[last].Cost {
+				if i < 0 || !cost && i <= last || cost && last >= 0 && a.Cost < all[last].Cost {
 					t.Fatal(text, a)
 				}
 				last = i

@@ -1,4 +1,4 @@
-package engine
+package engine_test
 
 import (
 	"cmp"
@@ -11,6 +11,7 @@ import (
 	"bridleway/connex"
 	"bridleway/counts"
 	"bridleway/each"
+	. "bridleway/engine"
 	"bridleway/graph"
 	"bridleway/plan"
 )

@@ -1,4 +1,4 @@
-package forest
+package forest_test
 
 import (
 	"math/rand"
@@ -8,6 +8,7 @@ import (
 	"testing"
 
 	"bridleway/api"
+	. "bridleway/forest"
 	"bridleway/hyper"
 	"bridleway/parse"
 	"bridleway/query"

@@ -1,4 +1,4 @@
-package heap
+package heap_test
 
 import (
 	"math/rand"
@@ -6,6 +6,7 @@ import (
 	"testing"
 
 	"bridleway/api"
+	. "bridleway/heap"
 )
 
 func random(r *rand.Rand) api.Item {

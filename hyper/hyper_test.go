@@ -1,4 +1,4 @@
-package hyper
+package hyper_test
 
 import (
 	"math/rand"
@@ -6,6 +6,7 @@ import (
 	"testing"
 
 	"bridleway/api"
+	. "bridleway/hyper"
 )
 
 func random(r *rand.Rand) api.Hyper {

@@ -1,10 +1,11 @@
-package layers
+package layers_test
 
 import (
 	"slices"
 	"testing"
 
 	"bridleway/api"
+	. "bridleway/layers"
 	"bridleway/tree"
 )
 

@@ -1,4 +1,4 @@
-package lex
+package lex_test
 
 import (
 	"math/rand"
@@ -7,6 +7,7 @@ import (
 	"testing"
 
 	"bridleway/api"
+	. "bridleway/lex"
 )
 
 func num(n int) api.Value     { return api.Value{Kind: api.VInt, Int: n} }

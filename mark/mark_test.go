@@ -1,4 +1,4 @@
-package mark
+package mark_test
 
 import (
 	"math"
@@ -11,6 +11,7 @@ import (
 	"bridleway/api"
 	"bridleway/costs"
 	"bridleway/heap"
+	. "bridleway/mark"
 	"bridleway/tree"
 	"bridleway/varint"
 )

@@ -1,4 +1,4 @@
-package meter
+package meter_test
 
 import (
 	"math"
@@ -6,6 +6,7 @@ import (
 	"testing"
 
 	"bridleway/api"
+	. "bridleway/meter"
 )
 
 func make5(t *testing.T, most int) *Meter {

@@ -1,4 +1,4 @@
-package mini
+package mini_test
 
 import (
 	"math/rand"
@@ -8,6 +8,7 @@ import (
 
 	"bridleway/api"
 	"bridleway/dfa"
+	. "bridleway/mini"
 	"bridleway/regex"
 )
 

@@ -1,4 +1,4 @@
-package nfa
+package nfa_test
 
 import (
 	"math"
@@ -8,6 +8,7 @@ import (
 	"testing"
 
 	"bridleway/api"
+	. "bridleway/nfa"
 	"bridleway/regex"
 )
 

@@ -1,4 +1,4 @@
-package pairs
+package pairs_test
 
 import (
 	"math"
@@ -8,6 +8,7 @@ import (
 
 	"bridleway/api"
 	"bridleway/csr"
+	. "bridleway/pairs"
 )
 
 func link(a, b, cost int, n uint64) api.Link { return api.Link{A: a, B: b, Cost: cost, N: n} }

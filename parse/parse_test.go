@@ -1,4 +1,4 @@
-package parse
+package parse_test
 
 import (
 	"math/rand"
@@ -9,6 +9,7 @@ import (
 
 	"bridleway/api"
 	"bridleway/lex"
+	. "bridleway/parse"
 	"bridleway/query"
 )
 

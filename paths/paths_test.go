@@ -1,4 +1,4 @@
-package paths
+package paths_test
 
 import (
 	"math"
@@ -9,6 +9,7 @@ import (
 	"bridleway/api"
 	"bridleway/csr"
 	"bridleway/dfa"
+	. "bridleway/paths"
 	"bridleway/product"
 	"bridleway/regex"
 )

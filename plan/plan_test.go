@@ -1,4 +1,4 @@
-package plan
+package plan_test
 
 import (
 	"math"
@@ -15,6 +15,7 @@ import (
 	"bridleway/each"
 	"bridleway/graph"
 	"bridleway/parse"
+	. "bridleway/plan"
 	"bridleway/query"
 	"bridleway/scope"
 	"bridleway/test"

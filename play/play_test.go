@@ -1,4 +1,4 @@
-package play
+package play_test
 
 import (
 	"slices"
@@ -8,6 +8,7 @@ import (
 
 	"bridleway/api"
 	"bridleway/graph"
+	. "bridleway/play"
 	"bridleway/script"
 )
 

@@ -1,4 +1,4 @@
-package product
+package product_test
 
 import (
 	"math"
@@ -10,6 +10,7 @@ import (
 	"bridleway/csr"
 	"bridleway/dfa"
 	"bridleway/pairs"
+	. "bridleway/product"
 	"bridleway/regex"
 )
 

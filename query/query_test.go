@@ -1,4 +1,4 @@
-package query
+package query_test
 
 import (
 	"slices"
@@ -6,6 +6,7 @@ import (
 	"testing"
 
 	"bridleway/api"
+	. "bridleway/query"
 )
 
 func num(n int) api.Value        { return api.Value{Kind: api.VInt, Int: n} }

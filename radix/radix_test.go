@@ -1,4 +1,4 @@
-package radix
+package radix_test
 
 import (
 	"math"
@@ -8,6 +8,7 @@ import (
 	"testing"
 
 	"bridleway/api"
+	. "bridleway/radix"
 )
 
 func keysFor(r *rand.Rand) []uint64 {

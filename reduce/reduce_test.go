@@ -1,4 +1,4 @@
-package reduce
+package reduce_test
 
 import (
 	"math/rand"
@@ -7,6 +7,7 @@ import (
 
 	"bridleway/api"
 	"bridleway/domain"
+	. "bridleway/reduce"
 )
 
 func random(r *rand.Rand) (api.Forest, api.Parts) {

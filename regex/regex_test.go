@@ -1,4 +1,4 @@
-package regex
+package regex_test
 
 import (
 	"math/rand"
@@ -8,6 +8,7 @@ import (
 
 	"bridleway/api"
 	"bridleway/lex"
+	. "bridleway/regex"
 )
 
 func sym(label string) api.Regex { return api.Regex{Kind: api.RSym, Sym: api.Sym{Label: label}} }

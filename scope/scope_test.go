@@ -1,4 +1,4 @@
-package scope
+package scope_test
 
 import (
 	"slices"
@@ -8,6 +8,7 @@ import (
 	"bridleway/api"
 	"bridleway/parse"
 	"bridleway/query"
+	. "bridleway/scope"
 )
 
 func read(t *testing.T, s string) api.Query {

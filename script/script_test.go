@@ -1,4 +1,4 @@
-package script
+package script_test
 
 import (
 	"math"
@@ -8,6 +8,7 @@ import (
 	"testing"
 
 	"bridleway/api"
+	. "bridleway/script"
 )
 
 func num(n int) api.Value { return api.Value{Kind: api.VInt, Int: n} }

@@ -1,4 +1,4 @@
-package short
+package short_test
 
 import (
 	"math"
@@ -12,6 +12,7 @@ import (
 	"bridleway/pairs"
 	"bridleway/product"
 	"bridleway/regex"
+	. "bridleway/short"
 )
 
 func of(t *testing.T, s string) api.Dfa {

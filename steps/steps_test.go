@@ -1,4 +1,4 @@
-package steps
+package steps_test
 
 import (
 	"math/rand"
@@ -9,6 +9,7 @@ import (
 	"bridleway/csr"
 	"bridleway/dfa"
 	"bridleway/regex"
+	. "bridleway/steps"
 )
 
 func TestBeforeIsAfterTurnedRound(t *testing.T) {

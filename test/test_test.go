@@ -1,4 +1,4 @@
-package test
+package test_test
 
 import (
 	"math"
@@ -9,6 +9,7 @@ import (
 	"bridleway/api"
 	"bridleway/cols"
 	"bridleway/query"
+	. "bridleway/test"
 )
 
 func num(n int) api.Value { return api.Value{Kind: api.VInt, Int: n} }

@@ -1,4 +1,4 @@
-package tree
+package tree_test
 
 import (
 	"math"
@@ -8,6 +8,7 @@ import (
 
 	"bridleway/api"
 	"bridleway/domain"
+	. "bridleway/tree"
 )
 
 func random(r *rand.Rand) (api.Forest, api.Parts) {

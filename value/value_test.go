@@ -1,10 +1,11 @@
-package value
+package value_test
 
 import (
 	"strings"
 	"testing"
 
 	"bridleway/api"
+	. "bridleway/value"
 )
 
 func num(n int) api.Value     { return api.Value{Kind: api.VInt, Int: n} }

@@ -1,4 +1,4 @@
-package varint
+package varint_test
 
 import (
 	"math"
@@ -7,6 +7,7 @@ import (
 	"testing"
 
 	"bridleway/api"
+	. "bridleway/varint"
 )
 
 var some = []uint64{0, 1, 127, 128, 300, 16383, 16384, 1 << 31, 1<<35 - 1, 1 << 35, 1 << 62, 1<<63 - 1, 1 << 63, math.MaxUint64}
