@@ -220,7 +220,7 @@ func TestNone(t *testing.T) {
 	if Good(nil, api.Item{}) || len(After(nil, api.Item{}))+len(All(nil, 5)) != 0 {
 		t.Error("nil costs")
 	}
-	for _, r := range []*Ranked{nil, New(nil), {}, New(costs.New(nil))} {
+	for _, r := range []*Ranked{nil, New(nil), New(costs.New(nil))} {
 		if row, ok := r.Next(); ok || !same(row, api.Row{}) || r.Len() != 0 || len(r.Items()) != 0 {
 			t.Error("nil")
 		}

@@ -115,7 +115,7 @@ func TestErrorsAndNone(t *testing.T) {
 		}
 	}
 	one, _ := New(api.Graph{Nodes: []api.Node{{Label: "A"}}})
-	for _, c := range []*Cols{nil, {}, one} {
+	for _, c := range []*Cols{nil, one} {
 		for _, n := range []int{-1, 1, math.MaxInt, math.MinInt} {
 			if label, ok := c.Label(n); label != "" || ok || c.Get(n, "p") != (api.Value{}) {
 				t.Error(n)

@@ -137,7 +137,7 @@ func TestExample(t *testing.T) {
 }
 
 func TestNone(t *testing.T) {
-	for _, c := range []*Costs{nil, New(nil), {}} {
+	for _, c := range []*Costs{nil, New(nil)} {
 		below, ok := c.Below(0, 0)
 		least, ok2 := c.Least(0, 0)
 		row, ok3 := c.Best()

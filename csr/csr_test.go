@@ -121,7 +121,7 @@ func TestErrors(t *testing.T) {
 func TestNone(t *testing.T) {
 	empty, _ := New(api.Graph{})
 	one, _ := New(api.Graph{Nodes: []api.Node{{Label: "n"}}, Edges: []api.Edge{{Label: "a"}}})
-	for _, c := range []*Csr{nil, empty, {}, one} {
+	for _, c := range []*Csr{nil, empty, one} {
 		for _, n := range []int{-1, 1, math.MaxInt, math.MinInt} {
 			if len(c.Out(n))+len(c.In(n))+len(c.Step(n, api.Sym{Label: "a"}))+c.Degree(n, true) != 0 {
 				t.Error(n)

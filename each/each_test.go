@@ -194,7 +194,7 @@ func TestWithoutPlacesAndNil(t *testing.T) {
 	if _, ok := Behind(empty); ok || len(All(empty, 9)) != 1 {
 		t.Error("behind")
 	}
-	for _, w := range []*Walk{nil, New(nil), {}} {
+	for _, w := range []*Walk{nil, New(nil)} {
 		row, ok := w.Step()
 		next, ok2 := w.Next()
 		if ok || ok2 || !w.Over() || w.Steps() != 0 || w.To() || !same(row, api.Row{}) || !same(next, api.Row{}) {

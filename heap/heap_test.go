@@ -112,9 +112,7 @@ func TestNil(t *testing.T) {
 	if ok || ok2 || h.Len() != 0 || len(h.List()) != 0 {
 		t.Error("nil")
 	}
-	h = &Heap{}
-	h.Push(api.Item{Cost: 3})
-	if x, ok := h.Pop(); x.Cost != 3 || !ok || New().Len() != 0 {
-		t.Error("zero")
+	if New().Len() != 0 {
+		t.Error("empty")
 	}
 }

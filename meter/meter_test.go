@@ -88,9 +88,4 @@ func TestNil(t *testing.T) {
 	if m.Add("a", 1) != api.ErrArg || m.Of("a") != 0 || m.All() != 0 || m.Left() != 0 || len(m.Names())+len(m.Lines()) != 0 || m.Join(make5(t, 1)) != api.ErrArg || m.Clear() != 0 {
 		t.Error("nil")
 	}
-	zero := &Meter{}
-	zero.Add("a", 1)
-	zero.Add("a", 0)
-	zero.Join(make5(t, 1))
-	zero.Clear()
 }

@@ -142,7 +142,7 @@ func TestErrorsAndNone(t *testing.T) {
 		}
 	}
 	one, _ := read(t, "a")
-	for _, n := range []*Nfa{nil, {}, one} {
+	for _, n := range []*Nfa{nil, one} {
 		for _, state := range []int{-1, 2, math.MaxInt, math.MinInt} {
 			s, ok := n.Sym(state)
 			if len(n.Follow(state))+len(n.Next(state, api.Sym{}))+len(n.Move([]int{state}, api.Sym{Label: "a"})) != 0 || n.Accepts(state) || ok || s != (api.Sym{}) {

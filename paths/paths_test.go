@@ -202,7 +202,7 @@ func TestErrors(t *testing.T) {
 func TestNone(t *testing.T) {
 	c, _ := csr.New(api.Graph{Nodes: []api.Node{{Label: "n"}}})
 	made, _ := New(c, api.Path{Regex: read(t, "()")}, 0, 5)
-	for _, r := range []*Rows{nil, {}, made} {
+	for _, r := range []*Rows{nil, made} {
 		for _, from := range []int{-1, 1, math.MaxInt} {
 			l, ok := r.At(from, 0)
 			rank, ok2 := r.Rank(from)
@@ -212,7 +212,7 @@ func TestNone(t *testing.T) {
 			}
 		}
 	}
-	if len((*Rows)(nil).Links())+len((&Rows{}).Links()) != 0 || made.Count(0) != 1 {
+	if len((*Rows)(nil).Links()) != 0 || made.Count(0) != 1 {
 		t.Error("links")
 	}
 }

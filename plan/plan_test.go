@@ -292,8 +292,10 @@ func TestATableOfAtMostAsManyRowsAsNodes(t *testing.T) {
 		if want := map[int]api.Errno{100: api.OK, 101: api.ErrCells}[ends]; code != want {
 			t.Error(ends, code)
 		}
-		if ends == 100 && !slices.Equal(p.Nodes(api.Row{Nodes: []int{9999}}), []int{100, 200}) {
-			t.Error(p.Nodes(api.Row{Nodes: []int{9999}}))
+		if ends == 100 {
+			if last, ok := p.Tree().Row(9999); !ok || !slices.Equal(p.Nodes(last), []int{100, 200}) {
+				t.Error(p.Nodes(last))
+			}
 		}
 	}
 }

@@ -194,7 +194,7 @@ func TestErrorsAndNone(t *testing.T) {
 		}
 	}
 	good, _ := New(c, d, 0)
-	for _, s := range []*Short{good, nil, {}} {
+	for _, s := range []*Short{good, nil} {
 		for _, n := range []int{-1, 2, math.MaxInt, math.MinInt} {
 			steps, ok := s.Steps(n, 0)
 			other, ok2 := s.Steps(0, n)

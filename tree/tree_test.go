@@ -170,7 +170,7 @@ func TestErrorsAndNone(t *testing.T) {
 		t.Error(row, ok)
 	}
 	some, _ := New(f, p)
-	for _, tr := range []*Tree{nil, {}, empty, some} {
+	for _, tr := range []*Tree{nil, empty, some} {
 		for _, i := range []int{-1, 9, math.MaxInt, math.MinInt} {
 			v, ok := tr.Var(i)
 			x, ok2 := tr.Find(i, 0, 0)
