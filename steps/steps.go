@@ -126,6 +126,11 @@ func (s *Steps) comes(node int) []move {
 	return l
 }
 
+// Forget lets all go that just Before needs.
+func (s *Steps) Forget() {
+	s.number, s.into, s.from = nil, nil, nil
+}
+
 // After is the hops from a cell, by rising Edge, not Back first.
 func (s *Steps) After(node, state int) []Next {
 	var l []Next
