@@ -213,6 +213,31 @@ func TestFromRefuses(t *testing.T) {
 	}
 }
 
+func TestAsManyItemsAsMayBe(t *testing.T) {
+	f := api.Forest{Vars: []string{"x", "y"}, Order: []int{0, 1}, Parent: []int{-1, -1}, Links: make([][]int, 2), Loops: make([][]int, 2)}
+	p := api.Parts{Nodes: make([][]api.Link, 2), Links: make([][]api.Link, 2)}
+	for i := range 4001 {
+		p.Nodes[0] = append(p.Nodes[0], api.Link{A: i, B: i, N: 1})
+	}
+	p.Nodes[1] = []api.Link{{N: 1}, {A: 1, B: 1, Cost: 1, N: 1}}
+	tr, _ := tree.New(f, p)
+	c := costs.New(tr)
+	r := New(c)
+	for range 4001 {
+		r.Next()
+	}
+	l := r.Items()
+	if len(l) != 4001 {
+		t.Fatal(len(l))
+	}
+	if r, code := From(c, l...); r != nil || code != api.ErrToken {
+		t.Error(code)
+	}
+	if r, code := From(c, l[1:]...); r.Len() != 4000 || code != api.OK {
+		t.Error(code)
+	}
+}
+
 func TestNone(t *testing.T) {
 	if r, code := From(nil); r != nil || code != api.ErrToken {
 		t.Error(code)

@@ -25,6 +25,12 @@ func TestOnlySmallNumbers(t *testing.T) {
 }
 
 func TestNext(t *testing.T) {
+	if n, ok := New(0, 5).Next(0); n != 0 || !ok {
+		t.Error(n, ok)
+	}
+	if n, ok := New(0, 5).Next(-7); n != 0 || !ok {
+		t.Error(n, ok)
+	}
 	s := New(3, 63, 64, 200)
 	want := map[int]int{math.MinInt: 3, -1: 3, 0: 3, 3: 3, 4: 63, 63: 63, 64: 64, 65: 200, 200: 200}
 	for n, next := range want {
@@ -48,6 +54,10 @@ func TestWords(t *testing.T) {
 	s.Cut(1000)
 	if !slices.Equal(s.Words(), []uint64{1, 1}) {
 		t.Error(s.Words())
+	}
+	one := New(5)
+	if one.Cut(5); len(one.Words()) != 0 {
+		t.Error(one.Words())
 	}
 	s.Words()[0] = 0
 	s.List()[0] = 9

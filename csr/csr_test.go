@@ -132,7 +132,7 @@ func TestNone(t *testing.T) {
 		}
 	}
 	var c *Csr
-	if _, ok := c.Label("a"); ok || c.Nodes() != 0 || c.Edges() != 0 || len(c.Labels()) != 0 {
+	if place, ok := c.Label("a"); place != 0 || ok || c.Nodes() != 0 || c.Edges() != 0 || len(c.Labels()) != 0 {
 		t.Error("nil")
 	}
 }

@@ -7,6 +7,7 @@ import (
 	"testing"
 
 	"bridleway/api"
+	"bridleway/auto"
 	"bridleway/csr"
 	. "bridleway/dag"
 	"bridleway/dfa"
@@ -18,7 +19,7 @@ import (
 func of(t *testing.T, s string) api.Dfa {
 	t.Helper()
 	r, _, code := regex.Parse(s)
-	d, made := dfa.Of(r, api.MaxStates)
+	d, made := auto.Of(r, api.MaxStates)
 	if code != api.OK || made != api.OK {
 		t.Fatal(s, code, made)
 	}

@@ -184,6 +184,10 @@ func TestNextAndRun(t *testing.T) {
 			t.Error(s, to, ok)
 		}
 	}
+	loop := api.Dfa{Syms: []api.Sym{a}, Next: [][]int{{1}, {0}}, Accept: []bool{true, false}}
+	if to, ok := Next(loop, 1, a); to != 0 || !ok || !Accepts(loop, a, a) || Accepts(loop, a) {
+		t.Error(to, ok)
+	}
 	if state, ok := Run(d); state != 0 || !ok {
 		t.Error(state, ok)
 	}

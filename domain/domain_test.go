@@ -137,6 +137,11 @@ func TestTooManyLinks(t *testing.T) {
 	}
 	c := some(t, g)
 	x, _, _ := regex.Parse("a*")
+	less := api.Graph{Nodes: g.Nodes[:1000], Edges: slices.Clone(g.Edges[:1000])}
+	less.Edges[999].To = 0
+	if l, code := Links(some(t, less), api.Path{Regex: x, Var: "r", Short: true}, false, 5); len(l) != api.MaxCells || code != api.OK {
+		t.Error(len(l), code)
+	}
 	if l, code := Links(c, api.Path{Regex: x}, false, 5); l != nil || code != api.ErrCells {
 		t.Error(code)
 	}

@@ -428,6 +428,10 @@ func TestCells(t *testing.T) {
 	if got := e.Cells(api.Answer{Nodes: []int{3}}); !slices.Equal(got, []string{"", "", "3"}) {
 		t.Error(got)
 	}
+	a.Nodes = append(a.Nodes, 8, 9)
+	if got := e.Cells(a); !slices.Equal(got, []string{"+1 -0", "7", "-5"}) {
+		t.Error(got)
+	}
 	if l := e.Explain(); len(l) != 6 || l[2] != "way tree" {
 		t.Error(l)
 	}

@@ -77,6 +77,9 @@ func TestLinksAndLoops(t *testing.T) {
 	if !same(f, want) {
 		t.Error(f)
 	}
+	if g := of(t, "MATCH (x)-[a]->(y)-[b]->(z) RETURN x"); !slices.Equal(Children(g, 0), []int{1}) || !slices.Equal(Children(g, 1), []int{2}) {
+		t.Error(g)
+	}
 	if !slices.Equal(Children(f, 1), []int{0, 2}) || len(Children(f, 0))+len(Children(f, -1))+len(Children(f, 3)) != 0 || !slices.Equal(Roots(f), []int{1}) {
 		t.Error("children")
 	}

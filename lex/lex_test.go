@@ -64,6 +64,16 @@ func TestWords(t *testing.T) {
 	if l, _, _ := Words("5a"); len(l) != 2 || l[1].At != 1 {
 		t.Error(l)
 	}
+	for _, s := range []string{"a", "z", "A", "Z", "az", "aZ", "aA", "a0", "a9", "z_"} {
+		if l, _, code := Words(s); len(l) != 1 || l[0].Text != s || code != api.OK {
+			t.Error(s, l, code)
+		}
+	}
+	for _, s := range []string{"0", "9", "-9", "-0"} {
+		if l, _, code := Words(s); len(l) != 1 || l[0].Kind != api.WValue || code != api.OK {
+			t.Error(s, l, code)
+		}
+	}
 	if l, _, _ := Words(strings.Repeat("x", 30)); len(l) != 1 {
 		t.Error(l)
 	}

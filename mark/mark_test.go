@@ -133,7 +133,19 @@ func TestItem(t *testing.T) {
 	if x, ok := Item(c, 2, 1); !ok || heap.Order(x, api.Item{Cost: 3, Nodes: []int{1, 2}, Place: 1, Rank: 2}) != 0 {
 		t.Error(x, ok)
 	}
+	single := apart(t, 2)
+	if x, ok := Item(single, 0, 0); ok || x.Nodes != nil {
+		t.Error(x)
+	}
 	empty := apart(t)
+	for _, l := range [][]uint64{{2, 0, 1}, {2, 0, 1, 0}, {2, 0, 1, 1, 0}, {2, 0, 1, 0, 1}} {
+		if _, code := Get(empty, varint.Put(l...)); code != api.ErrToken {
+			t.Error(l, code)
+		}
+	}
+	if m, code := Get(empty, varint.Put(2, 0, 1, 0, 0)); code != api.OK || !equal(m, Start(empty)) {
+		t.Error(m, code)
+	}
 	if x, ok := Item(empty, 0); !ok || heap.Order(x, api.Item{}) != 0 {
 		t.Error(x, ok)
 	}
@@ -215,6 +227,10 @@ func TestTooManyItems(t *testing.T) {
 		items = append(items, x)
 	}
 	m := api.Mark{Told: 7, Items: items}
+	s, _ := Put(c, m)
+	if got, code := Get(c, s); code != api.OK || !equal(got, m) {
+		t.Error(code)
+	}
 	row, next, code := Next(c, m)
 	if code != api.OK || row.Cost != 0 || len(next.Items) != 4000 || next.Told != 8 {
 		t.Error(len(next.Items), code)

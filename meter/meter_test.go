@@ -62,6 +62,9 @@ func TestJoin(t *testing.T) {
 	if m.Join(o) != api.ErrFull || m.All() != 6 || m.Of("c") != 0 {
 		t.Error(m.Lines())
 	}
+	if just := make5(t, 5); just.Join(o) != api.OK || just.Left() != 0 || just.Join(just) != api.ErrFull || just.Join(make5(t, 9)) != api.OK {
+		t.Error("just as much as is left")
+	}
 	if o.Join(o) != api.OK || !slices.Equal(o.Lines(), []string{"a 6", "b 2", "c 2", "all 10"}) {
 		t.Error(o.Lines())
 	}
@@ -75,7 +78,7 @@ func TestWithin(t *testing.T) {
 		n, base, factor int
 		ok              bool
 	}{
-		{6, 2, 3, true}, {7, 2, 3, false}, {0, 0, 5, true}, {1, 0, math.MaxInt, false}, {math.MaxInt, math.MaxInt, math.MaxInt, true}, {math.MaxInt, math.MaxInt, 1, true}, {math.MaxInt, math.MaxInt - 1, 1, false}, {math.MaxInt, 1 << 32, 1 << 32, true}, {-1, 5, 5, false}, {1, -5, -5, false}, {0, -1, 0, false}, {0, 0, math.MinInt, false},
+		{0, 5, 0, true}, {1, 5, 0, false}, {0, 0, 0, true}, {6, 2, 3, true}, {7, 2, 3, false}, {0, 0, 5, true}, {1, 0, math.MaxInt, false}, {math.MaxInt, math.MaxInt, math.MaxInt, true}, {math.MaxInt, math.MaxInt, 1, true}, {math.MaxInt, math.MaxInt - 1, 1, false}, {math.MaxInt, 1 << 32, 1 << 32, true}, {-1, 5, 5, false}, {1, -5, -5, false}, {0, -1, 0, false}, {0, 0, math.MinInt, false},
 	} {
 		if Within(x.n, x.base, x.factor) != x.ok {
 			t.Error(x)

@@ -75,10 +75,8 @@ func (p *parting) split(to []int, ahead [][]int) {
 	var touched []int
 	for _, t := range to {
 		for _, state := range ahead[t] {
+			// By one step a state goes to just one: none is marked twice.
 			b := p.block[state]
-			if p.place[state] < p.first[b]+p.mark[b] {
-				continue
-			}
 			if p.mark[b] == 0 {
 				touched = append(touched, b)
 			}

@@ -24,6 +24,7 @@ func TestNorm(t *testing.T) {
 		"MATCH (x {p>=01}), (x:A), (x)-[r:()*SHORTEST]->(x) RETURN nothing SKIP 3 COUNT": "MATCH (x {p >= 1}), (x:A), (x)-[r: ()* SHORTEST]->(x) RETURN nothing SKIP 3 COUNT",
 	}
 	want["MATCH (x {p=1,q<>'a'}), (x) RETURN x ORDER BY COST SKIP 0 LIMIT 7"] = "MATCH (x {p = 1, q <> 'a'}) RETURN x ORDER BY COST SKIP 0 LIMIT 7"
+	want["MATCH (x), (x {p=1}), (x:A), (x)-[a]->(x {q=2}) RETURN x"] = "MATCH (x), (x {p = 1}), (x:A), (x {q = 2}), (x)-[a]->(x) RETURN x"
 	for s, norm := range want {
 		got, code := Norm(s)
 		if got != norm || code != api.OK || !Good(s) {
@@ -59,7 +60,7 @@ func where(s string) (string, int) {
 
 func TestWordsThatCannotStandThere(t *testing.T) {
 	for _, marked := range []string{
-		"!(x)", "!RETURN x", "MATCH !x", "MATCH (!)", "MATCH (!MATCH)", "MATCH (x! y)", "MATCH (x:!)", "MATCH (x:!5)", "MATCH (x:A!:B)", "MATCH (x {!})", "MATCH (x {p! 5})", "MATCH (x {p !. 5})", "MATCH (x {p =! q})", "MATCH (x {p = 5! q = 6})", "MATCH (x {p = 5,!})", "MATCH (x {p = 5}!{)", "MATCH (x {p !<-[ 5})",
+		"!(x)", "!RETURN x", "MATCH !RETURN x", "MATCH (x !RETURN x", "MATCH (x), (!RETURN x", "MATCH (x:!RETURN x", "MATCH (x {p = 5 !) RETURN x", "MATCH (x)-[a !RETURN x", "MATCH (x)-[a]->!RETURN x", "MATCH (x {p !) RETURN x", "MATCH (x {p = !) RETURN x", "MATCH (x {!) RETURN x", "MATCH !x", "MATCH (!)", "MATCH (!MATCH)", "MATCH (x! y)", "MATCH (x:!)", "MATCH (x:!5)", "MATCH (x:A!:B)", "MATCH (x {!})", "MATCH (x {p! 5})", "MATCH (x {p !. 5})", "MATCH (x {p =! q})", "MATCH (x {p = 5! q = 6})", "MATCH (x {p = 5,!})", "MATCH (x {p = 5}!{)", "MATCH (x {p !<-[ 5})",
 		"MATCH (x)!]->", "MATCH (x)-[!]->(y)", "MATCH (x)-[a!]-(y)", "MATCH (x)<-[a!]->(y)", "MATCH (x)-[a]->!RETURN", "MATCH (x)-[a ! b]->(y)", "MATCH (x)-[a.!]->(y)", "MATCH (x)-[(a!]->(y)", "MATCH (x)-[a !5]->(y)", "MATCH (x)-[a !SHORTEST]->(y)", "MATCH (x)-[r:!]->(y)", "MATCH (x)-[r: a!]->(y)", "MATCH (x)-[r: a !0]->(y)", "MATCH (x)-[r: a !31]->(y)", "MATCH (x)-[r: a !'5']->(y)", "MATCH (x)-[r: a 5 !SHORTEST]->(y)", "MATCH (x)-[r: s!: a 5]->(y)", "MATCH (x)-[a.b!: c 5]->(y)", "MATCH (x)-[a]->(y)-[b]->!-[", "MATCH (x)-[a.!RETURN]->(y)",
 		"MATCH (x),! RETURN x", "MATCH (x) !(y) RETURN x", "MATCH (x) RETURN !", "MATCH (x) RETURN !5", "MATCH (x) RETURN x,!,", "MATCH (x) RETURN x ! y", "MATCH (x) RETURN x ORDER !COST", "MATCH (x) RETURN x ORDER BY !x", "MATCH (x) RETURN x SKIP !-1", "MATCH (x) RETURN x SKIP !1000000001", "MATCH (x) RETURN x SKIP !'1'", "MATCH (x) RETURN x SKIP !LIMIT", "MATCH (x) RETURN x LIMIT 5 !SKIP 3", "MATCH (x) RETURN x COUNT !COUNT", "MATCH (x) RETURN x LIMIT 3 !ORDER BY COST", "MATCH (x) RETURN x COUNT !LIMIT 5", "MATCH (x) RETURN x !)",
 	} {

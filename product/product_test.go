@@ -4,9 +4,11 @@ import (
 	"math"
 	"math/rand"
 	"slices"
+	"strings"
 	"testing"
 
 	"bridleway/api"
+	"bridleway/auto"
 	"bridleway/csr"
 	"bridleway/dfa"
 	"bridleway/pairs"
@@ -17,7 +19,7 @@ import (
 func of(t *testing.T, s string) api.Dfa {
 	t.Helper()
 	r, _, code := regex.Parse(s)
-	d, made := dfa.Of(r, api.MaxStates)
+	d, made := auto.Of(r, api.MaxStates)
 	if code != api.OK || made != api.OK {
 		t.Fatal(s, code, made)
 	}
@@ -145,6 +147,10 @@ func TestCheck(t *testing.T) {
 	}{
 		{nil, api.Dfa{}, -1, api.ErrArg}, {c, api.Dfa{}, -1, api.ErrArg}, {c, api.Dfa{}, math.MaxInt, api.ErrForm}, {c, two, 499, api.OK}, {c, two, 500, api.ErrCells}, {c, two, math.MaxInt, api.ErrCells}, {c, two, 0, api.OK}, {empty, two, math.MaxInt, api.OK},
 	}
+	one := newCsr(t, api.Graph{Nodes: []api.Node{{Label: "n"}}})
+	if Check(one, of(t, "()"), api.MaxCells-1) != api.OK || Check(one, of(t, "()"), api.MaxCells) != api.ErrCells {
+		t.Error("one cell")
+	}
 	for i, x := range cases {
 		if code := Check(x.c, x.d, x.hops); code != x.code {
 			t.Error(i, code)
@@ -163,8 +169,10 @@ func TestCheck(t *testing.T) {
 		if l, code := Pairs(c, two, 0, n); l != nil || code != api.ErrArg {
 			t.Error(code)
 		}
-		if s, ok := Steps(c, of(t, "()"), n, n); s != 0 || ok {
-			t.Error(s, ok)
+		for _, ends := range [][2]int{{n, n}, {0, n}, {n, 0}} {
+			if s, ok := Steps(c, of(t, "()"), ends[0], ends[1]); s != 0 || ok {
+				t.Error(s, ok)
+			}
 		}
 	}
 	if s, ok := Steps(c, api.Dfa{}, 0, 0); s != 0 || ok {
@@ -195,6 +203,33 @@ func TestTooManyPairs(t *testing.T) {
 	}
 	if l, code := Pairs(c, d, append(nodes, -1)...); l != nil || code != api.ErrArg {
 		t.Error(code)
+	}
+}
+
+func TestAsManyAsMayBe(t *testing.T) {
+	// A thousand nodes in a ring: each reaches all.
+	var g api.Graph
+	var nodes []int
+	for i := range 1000 {
+		g.Nodes = append(g.Nodes, api.Node{Label: "n"})
+		g.Edges = append(g.Edges, api.Edge{From: i, To: (i + 1) % 1000, Label: "a"})
+		nodes = append(nodes, i)
+	}
+	c := newCsr(t, g)
+	if l, code := Pairs(c, of(t, "a*"), nodes...); len(l) != api.MaxCells || code != api.OK {
+		t.Error(len(l), code)
+	}
+	if l, code := Pairs(c, of(t, "a*"), append(nodes, 0)...); l != nil || code != api.ErrCells {
+		t.Error(len(l), code)
+	}
+	// Ten thousand nodes and a hundred states are as many cells as may be.
+	wide := newCsr(t, api.Graph{Nodes: slices.Repeat([]api.Node{{Label: "n"}}, 10000)})
+	long := of(t, "a"+strings.Repeat(".a", 98))
+	if l, code := Reach(wide, long, 0); len(l) != 0 || code != api.OK || len(long.Accept) != 100 {
+		t.Error(l, code)
+	}
+	if steps, ok := Steps(wide, of(t, "(a"+strings.Repeat(".a", 98)+")?"), 5, 5); steps != 0 || !ok {
+		t.Error(steps, ok)
 	}
 }
 

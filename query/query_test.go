@@ -41,6 +41,10 @@ func TestPrint(t *testing.T) {
 	if s, code := Print(q); s != "MATCH (x) RETURN z" || code != api.OK {
 		t.Error(s, code)
 	}
+	q.Limit = 0
+	if s, _ := Print(q); s != "MATCH (x) RETURN z LIMIT 0" {
+		t.Error(s)
+	}
 	q.Limit = 5
 	if s, _ := Print(q); s != "MATCH (x) RETURN z LIMIT 5" {
 		t.Error(s)
@@ -87,6 +91,9 @@ var bad = []func(q *api.Query){
 }
 
 func TestGood(t *testing.T) {
+	if nothing := (api.Query{Return: []string{"x"}, Skip: -1, Limit: -1}); Good(nothing) {
+		t.Error("no places")
+	}
 	if !Good(some()) || Good(api.Query{}) {
 		t.Error("good")
 	}
@@ -103,10 +110,14 @@ func TestGood(t *testing.T) {
 	q := some()
 	q.Places = append(q.Places, slices.Repeat(q.Places[:1], 12)...)
 	q.Places[0].Tests = slices.Repeat(q.Places[0].Tests, 4)
-	q.Paths = slices.Repeat(q.Paths, 5)
+	q.Paths = append(slices.Repeat(q.Paths, 5), q.Paths[0])
+	q.Paths[1].Hops = 1
 	q.Return = slices.Repeat(q.Return, 16)
-	if !Good(q) {
-		t.Error("limits")
+	for op := api.Eq; op <= api.Ge; op++ {
+		q.Places[0].Tests[0].Op = op
+		if !Good(q) || len(q.Paths) != api.MaxPaths {
+			t.Error("limits", op)
+		}
 	}
 }
 

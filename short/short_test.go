@@ -7,6 +7,7 @@ import (
 	"testing"
 
 	"bridleway/api"
+	"bridleway/auto"
 	"bridleway/csr"
 	"bridleway/dfa"
 	"bridleway/pairs"
@@ -18,7 +19,7 @@ import (
 func of(t *testing.T, s string) api.Dfa {
 	t.Helper()
 	r, _, code := regex.Parse(s)
-	d, made := dfa.Of(r, api.MaxStates)
+	d, made := auto.Of(r, api.MaxStates)
 	if code != api.OK || made != api.OK {
 		t.Fatal(s, code, made)
 	}
@@ -195,13 +196,21 @@ func TestErrorsAndNone(t *testing.T) {
 	}
 	good, _ := New(c, d, 0)
 	for _, s := range []*Short{good, nil} {
-		for _, n := range []int{-1, 2, math.MaxInt, math.MinInt} {
+		for _, n := range []int{-1, 2, 3, math.MaxInt, math.MinInt} {
 			steps, ok := s.Steps(n, 0)
 			other, ok2 := s.Steps(0, n)
 			begin, ok3 := s.Begin(n)
 			if ok || ok2 || ok3 || steps != 0 || other != 0 || begin != (api.Spot{}) || s.Count(api.Spot{Node: n}) != 0 || s.Ends(api.Spot{State: n}) || len(s.Ways(api.Spot{Left: n})) != 0 {
 				t.Error(n)
 			}
+		}
+	}
+	for _, n := range []int{1, 2, math.MaxInt} {
+		if steps, ok := good.Steps(n, 0); steps != 0 || ok || good.Count(api.Spot{Node: n}) != 0 || good.Ends(api.Spot{Node: n, State: 1}) {
+			t.Error(n)
+		}
+		if begin, ok := good.Begin(n); begin != (api.Spot{}) || ok {
+			t.Error(n)
 		}
 	}
 	var s *Short

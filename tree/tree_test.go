@@ -171,7 +171,7 @@ func TestErrorsAndNone(t *testing.T) {
 	}
 	some, _ := New(f, p)
 	for _, tr := range []*Tree{nil, empty, some} {
-		for _, i := range []int{-1, 9, math.MaxInt, math.MinInt} {
+		for _, i := range []int{-1, tr.Len(), 9, math.MaxInt, math.MinInt} {
 			v, ok := tr.Var(i)
 			x, ok2 := tr.Find(i, 0, 0)
 			row, ok3 := tr.Row(1, 2, 3, 4, 5, 6, 7, 8)

@@ -27,7 +27,7 @@ func TestGood(t *testing.T) {
 }
 
 func TestName(t *testing.T) {
-	for _, s := range []string{"a", "Z", "a_1", strings.Repeat("x", 30)} {
+	for _, s := range []string{"a", "z", "A", "Z", "a_0", "a9", "zZ", "aA", strings.Repeat("x", 30)} {
 		if !Name(s) {
 			t.Error(s)
 		}
@@ -146,6 +146,9 @@ func TestSignAndOp(t *testing.T) {
 
 func TestLeast(t *testing.T) {
 	if v, ok := Least(); ok || v != (api.Value{}) {
+		t.Error(v, ok)
+	}
+	if v, ok := Least(num(7)); !ok || v != num(7) {
 		t.Error(v, ok)
 	}
 	if v, ok := Least(text("a"), num(3), num(-3), text("")); !ok || v != num(-3) {

@@ -128,6 +128,9 @@ func TestText(t *testing.T) {
 		if got, n, code := GetText(s+"more", len(text)); got != text || n != len(s) || code != api.OK {
 			t.Error(got, n, code)
 		}
+		if got, n, code := GetText(s, len(text)); got != text || n != len(s) || code != api.OK {
+			t.Error(got, n, code)
+		}
 		if got, n, code := GetText(s, len(text)-1); got != "" || n != 0 || code != api.ErrLong {
 			t.Error(got, n, code)
 		}
