@@ -157,6 +157,22 @@ func TestExamples(t *testing.T) {
 	}
 }
 
+func TestWaysStandInOrder(t *testing.T) {
+	g := api.Graph{Nodes: []api.Node{{Label: "n"}}, Edges: slices.Repeat([]api.Edge{{Label: "a"}}, 30)}
+	c, _ := csr.New(g)
+	x, _ := New(c, of(t, "(a|^a)*"), 2, 0)
+	begin, _ := x.Begin(0)
+	ways := x.Ways(begin)
+	if len(ways) != 60 {
+		t.Fatal(len(ways))
+	}
+	for i, w := range ways {
+		if w.Hop != (api.Hop{Edge: i / 2, Back: i%2 == 1}) || w.To != (api.Spot{Left: 1}) || w.N != 61 {
+			t.Error(i, w)
+		}
+	}
+}
+
 func TestErrorsAndNone(t *testing.T) {
 	c, d := loop(t), of(t, "a")
 	cases := []struct {

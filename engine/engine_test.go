@@ -348,6 +348,30 @@ func TestTooLongAToken(t *testing.T) {
 	}
 }
 
+func TestAsLongATokenAsMayBe(t *testing.T) {
+	// x may be 2731 nodes, small of which have numbers of one byte: an item has 24 bytes, or 23.
+	for small, want := range map[int]api.Errno{12: api.OK, 11: api.ErrFull} {
+		g := manyItems()
+		g.Edges = []api.Edge{{Label: "b"}, {From: 1, To: 1, Label: "b", Weight: 1}}
+		for i := range 2731 {
+			if i >= small {
+				i += 128
+			}
+			g.Edges = append(g.Edges, api.Edge{From: i, To: i, Label: "a"})
+		}
+		places, names := "", ""
+		for i := range 10 {
+			places += ", (v" + string(rune('a'+i)) + ":B)"
+			names += ", v" + string(rune('a'+i))
+		}
+		e := open(t, g, "MATCH (x)-[a]->(x)"+places+", (y)-[b]->(y) RETURN x, y"+names+" ORDER BY COST SKIP 2731")
+		_, token, code := e.Page("", 0)
+		if code != want || code == api.OK && len(token) != api.MaxToken {
+			t.Error(small, len(token), code)
+		}
+	}
+}
+
 func TestFirstMost(t *testing.T) {
 	g := api.Graph{Nodes: []api.Node{{Label: "A"}}}
 	for range 8 {

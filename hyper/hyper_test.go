@@ -139,7 +139,7 @@ func TestOrderOfEars(t *testing.T) {
 
 func TestTreeRefuses(t *testing.T) {
 	h := api.Hyper{N: 3, Edges: [][]int{{0, 1}, {1, 2}}}
-	for _, parent := range [][]int{nil, {-1}, {-1, -1}, {1, 0}, {0, -1}, {2, -1}, {-2, 0}, {-1, 0, 0}, {-1, 1}} {
+	for _, parent := range [][]int{nil, {-1}, {-1, -1}, {1, 0}, {0, -1}, {2, -1}, {-2, 0}, {-1, 0, 0}, {-1, 1}, {1, 2}, {1, -2}, {1, 99}, {-2, -1}, {-1, 5}} {
 		if Tree(h, parent) {
 			t.Error(parent)
 		}

@@ -246,6 +246,33 @@ func TestTooManyItems(t *testing.T) {
 	}
 }
 
+func TestAsLongATokenAsMayBe(t *testing.T) {
+	// 2731 items of Place 11, twelve of which have 23 bytes, and others 24.
+	c := apart(t, 3000, 300, 300, 300, 300, 300, 300, 300, 300, 300, 300, 2)
+	begin := append([]int{0}, slices.Repeat([]int{200}, 10)...)
+	var m api.Mark
+	for x := range 2731 {
+		begin[0] = x
+		if x >= 12 {
+			begin[0] = x + 128
+		}
+		item, ok := Item(c, 1, begin...)
+		if !ok {
+			t.Fatal(begin)
+		}
+		m.Items = append(m.Items, item)
+	}
+	s, code := Put(c, m)
+	if got, getCode := Get(c, s); len(s) != api.MaxToken || code != api.OK || getCode != api.OK || !equal(got, m) {
+		t.Error(len(s), code, getCode)
+	}
+	m.Told = 128
+	s, code = Put(c, m)
+	if got, getCode := Get(c, s); len(s) != api.MaxToken+1 || code != api.OK || getCode != api.ErrToken || !equal(got, api.Mark{}) {
+		t.Error(len(s), code, getCode)
+	}
+}
+
 func TestNilAndSame(t *testing.T) {
 	for _, m := range []api.Mark{{}, {Over: true}} {
 		s, code := Put(nil, m)

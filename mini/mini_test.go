@@ -85,8 +85,8 @@ func rows(n int) [][]api.Sym {
 
 func TestClasses(t *testing.T) {
 	r := rand.New(rand.NewSource(16))
-	for range 3000 {
-		d := random(r, 9)
+	for round := range 30000 {
+		d := random(r, 2+round%24)
 		class, code := Classes(d)
 		if code != api.OK || !slices.Equal(class, slow(d)) {
 			t.Fatal(d, class, slow(d))

@@ -4,6 +4,7 @@ import (
 	"math"
 	"math/rand"
 	"slices"
+	"strings"
 	"testing"
 
 	"bridleway/api"
@@ -170,6 +171,17 @@ func TestExamples(t *testing.T) {
 		if begin, ok := s.Begin(n); s.Count(begin) != want || !ok {
 			t.Error(n, s.Count(begin))
 		}
+	}
+}
+
+func TestAsManyCellsAsMayBe(t *testing.T) {
+	wide, _ := csr.New(api.Graph{Nodes: slices.Repeat([]api.Node{{Label: "n"}}, 10000)})
+	long := of(t, "a"+strings.Repeat(".a", 98))
+	if s, code := New(wide, long, 9999); s == nil || code != api.OK || len(long.Accept) != 100 {
+		t.Error(code)
+	}
+	if s, code := New(wide, of(t, "a"+strings.Repeat(".a", 99)), 9999); s != nil || code != api.ErrCells {
+		t.Error(code)
 	}
 }
 
