@@ -155,8 +155,11 @@ func TestMost(t *testing.T) {
 }
 
 func TestNone(t *testing.T) {
+	if New(nil) != nil {
+		t.Error("counts of a nil tree are not nil")
+	}
 	for _, c := range []*Counts{nil, New(nil)} {
-		if c.All() != 0 || c.Behind() != 0 || c.Behind(0) != 0 || c.Below(0, 0) != 0 || c.Sum(0, -1) != 0 || c.Exact() || c.Tree() != nil {
+		if c.All() != 0 || c.Behind() != 0 || c.Behind(0) != 0 || c.Below(0, 0) != 0 || c.Sum(0, -1) != 0 || c.Sum(-1, 0) != 0 || c.Exact() || c.Tree() != nil {
 			t.Error(c)
 		}
 	}
