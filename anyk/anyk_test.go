@@ -239,11 +239,13 @@ func TestAsManyItemsAsMayBe(t *testing.T) {
 }
 
 func TestNone(t *testing.T) {
-	if r, code := From(nil); r != nil || code != api.ErrToken {
-		t.Error(code)
-	}
-	if Good(nil, api.Item{}) || len(After(nil, api.Item{}))+len(All(nil, 5)) != 0 {
-		t.Error("nil costs")
+	for _, c := range []*costs.Costs{nil, costs.New(nil)} {
+		if r, code := From(c); r != nil || code != api.ErrToken {
+			t.Error(code)
+		}
+		if Good(c, api.Item{}) || len(After(c, api.Item{}))+len(All(c, 5)) != 0 {
+			t.Error("nil costs")
+		}
 	}
 	for _, r := range []*Ranked{nil, New(nil), New(costs.New(nil))} {
 		if row, ok := r.Next(); ok || !same(row, api.Row{}) || r.Len() != 0 || len(r.Items()) != 0 {

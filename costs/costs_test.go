@@ -137,6 +137,9 @@ func TestExample(t *testing.T) {
 }
 
 func TestNone(t *testing.T) {
+	if New(nil) != nil {
+		t.Error("costs of a nil tree are not nil")
+	}
 	for _, c := range []*Costs{nil, New(nil)} {
 		below, ok := c.Below(0, 0)
 		least, ok2 := c.Least(0, 0)
